@@ -407,30 +407,39 @@ func TestFieldType(t *testing.T) {
 	}
 }
 
-// typesOver returns all types of at most max nodes whose kinds and Labels are given.
-func typesOver(kinds []int, labels [][]string, max int) []impl.Type {
-	// Of every number of nodes, the types and the lists of types with so many in all.
-	types, lists := make([][]impl.Type, max+1), make([][][]impl.Type, max+1)
-	lists[0] = [][]impl.Type{nil}
-	var all []impl.Type
+// treesOver returns all trees of at most max nodes, where tops gives those that have the given parts.
+func treesOver[T any](max int, tops func(parts []T) []T) []T {
+	// Of every number of nodes, the trees and the lists of trees with so many in all.
+	trees, lists := make([][]T, max+1), make([][][]T, max+1)
+	lists[0] = [][]T{nil}
+	var all []T
 	for n := 1; n <= max; n++ {
-		for _, args := range lists[n-1] {
-			for _, k := range kinds {
-				for _, l := range labels {
-					types[n] = append(types[n], node(k, l, args...))
-				}
-			}
+		for _, parts := range lists[n-1] {
+			trees[n] = append(trees[n], tops(parts)...)
 		}
 		for first := 1; first <= n; first++ {
-			for _, x := range types[first] {
+			for _, x := range trees[first] {
 				for _, rest := range lists[n-first] {
-					lists[n] = append(lists[n], append([]impl.Type{x}, rest...))
+					lists[n] = append(lists[n], append([]T{x}, rest...))
 				}
 			}
 		}
-		all = append(all, types[n]...)
+		all = append(all, trees[n]...)
 	}
 	return all
+}
+
+// typesOver returns all types of at most max nodes whose kinds and Labels are given.
+func typesOver(kinds []int, labels [][]string, max int) []impl.Type {
+	return treesOver(max, func(args []impl.Type) []impl.Type {
+		var types []impl.Type
+		for _, k := range kinds {
+			for _, l := range labels {
+				types = append(types, node(k, l, args...))
+			}
+		}
+		return types
+	})
 }
 
 func TestAllSmallTypes(t *testing.T) {
